@@ -49,6 +49,27 @@ const (
 	maxCrc        = 1<<32 - 1
 )
 
+// Why a sealed string cannot be opened.
+var (
+	errSealSize  = errors.New("the string is longer than any may be")
+	errSealShort = errors.New("the string has no room for a checksum")
+	errSealSum   = errors.New("the string has a wrong checksum")
+)
+
+// layerError wraps why something could not be read in the name of the layer that it belongs to.
+type layerError struct {
+	layer string
+	why   error
+}
+
+func (l layerError) Error() string {
+	return l.layer + ": " + l.why.Error()
+}
+
+func (l layerError) Unwrap() error {
+	return l.why
+}
+
 // malformed is the error of an encoding that cannot be decoded. It carries the code with which the exported functions report it.
 type malformed struct {
 	code int64
@@ -131,9 +152,17 @@ func PutText(t string) string {
 	return joined(PutNum(int64(len(t))), t)
 }
 
-func joined(a string, b string) string {
-	buf := make([]byte, len(a)+len(b))
-	copy(buf[copy(buf, a):], b)
+// joined returns the concatenation of strings.
+func joined(parts ...string) string {
+	size := 0
+	for _, part := range parts {
+		size += len(part)
+	}
+	buf := make([]byte, size)
+	end := 0
+	for _, part := range parts {
+		end += copy(buf[end:], part)
+	}
 	return string(buf)
 }
 
@@ -224,15 +253,37 @@ func sumBytes(text string) string {
 
 // Unseal returns a sealed string without its CRC.
 func Unseal(text string) TextOut {
+	body, err := unsealed(text)
+	if err != nil {
+		return TextOut{Code: sealedCode(err)}
+	}
+	return TextOut{Text: body}
+}
+
+func unsealed(text string) (string, error) {
 	if len(text) > MaxBytes {
-		return TextOut{Code: ErrSize}
+		return "", errSealSize
 	}
 	if len(text) < crcBytes {
-		return TextOut{Code: ErrShort}
+		return "", errSealShort
 	}
 	end := len(text) - crcBytes
 	if text[end:] != sumBytes(text[:end]) {
-		return TextOut{Code: ErrSum}
+		return "", errSealSum
 	}
-	return TextOut{Text: text[:end]}
+	return text[:end], nil
+}
+
+// sealedCode returns the code of an error that came from reading a sealed string. Whatever is not about the seal is about what was sealed, and thus ErrSyntax.
+func sealedCode(err error) int64 {
+	switch {
+	case errors.Is(err, errSealSize):
+		return ErrSize
+	case errors.Is(err, errSealShort):
+		return ErrShort
+	case errors.Is(err, errSealSum):
+		return ErrSum
+	default:
+		return ErrSyntax
+	}
 }

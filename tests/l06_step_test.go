@@ -2,6 +2,7 @@ package tests
 
 import (
 	"encoding/binary"
+	"fmt"
 	"math"
 	"slices"
 	"strings"
@@ -136,6 +137,12 @@ func labels(numbers ...int64) []impl.Step {
 	return l
 }
 
+// shown is short also for a value with a great list or text.
+func shown(v any) string {
+	text := fmt.Sprintf("%+q", fmt.Sprintf("%+v", v))
+	return text[:min(len(text), 300)]
+}
+
 func readsAs(t *testing.T, text string, want impl.Step) {
 	t.Helper()
 	if got := impl.StepRead(text); got != (impl.StepOut{Step: want}) {
@@ -153,14 +160,14 @@ func readFails(t *testing.T, what string, text string, code int64) {
 func codeIs(t *testing.T, what string, l []impl.Step, blocks int64, want int64) {
 	t.Helper()
 	if got := impl.StepsCode(l, blocks); got != want {
-		t.Errorf("%s: StepsCode(%.300v, %d) = %d, want %d", what, l, blocks, got, want)
+		t.Errorf("%s: StepsCode(%s, %d) = %d, want %d", what, shown(l), blocks, got, want)
 	}
 }
 
 func writesAre(t *testing.T, what string, got []impl.Step, want []impl.Step) {
 	t.Helper()
 	if !slices.Equal(got, want) {
-		t.Errorf("%s: got %.300v, want %.300v", what, got, want)
+		t.Errorf("%s: got %s, want %s", what, shown(got), shown(want))
 	}
 }
 
@@ -256,7 +263,7 @@ func TestStepRightAndBytesOfAllCombinations(t *testing.T) {
 	for _, s := range edgeSteps() {
 		for _, blocks := range sizes {
 			if got, want := impl.StepRight(s, blocks), stepValid(s, blocks); got != want {
-				t.Fatalf("StepRight(%.200v, %d) = %t, want %t", s, blocks, got, want)
+				t.Fatalf("StepRight(%s, %d) = %t, want %t", shown(s), blocks, got, want)
 			}
 		}
 		want := ""
@@ -264,7 +271,7 @@ func TestStepRightAndBytesOfAllCombinations(t *testing.T) {
 			want = rawStep(s)
 		}
 		if got := impl.StepBytes(s); got != want {
-			t.Fatalf("StepBytes(%.200v) = %x, want %x", s, got, want)
+			t.Fatalf("StepBytes(%s) = %x, want %x", shown(s), got, want)
 		}
 	}
 }
@@ -478,7 +485,7 @@ func TestStepsCodeOfOneStep(t *testing.T) {
 				want = impl.OK
 			}
 			if got := impl.StepsCode([]impl.Step{s}, blocks); got != want {
-				t.Fatalf("StepsCode(%.200v, %d) = %d, want %d", s, blocks, got, want)
+				t.Fatalf("StepsCode(%s, %d) = %d, want %d", shown(s), blocks, got, want)
 			}
 		}
 	}

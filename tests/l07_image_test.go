@@ -100,7 +100,7 @@ func imageOutIs(t *testing.T, what string, got impl.ImageOut, want []string) {
 func imageFails(t *testing.T, what string, got impl.ImageOut, code int64) {
 	t.Helper()
 	if got.Code != code || len(got.Image) != 0 {
-		t.Errorf("%s: got %.300v, want the code %d", what, got, code)
+		t.Errorf("%s: got %s, want the code %d", what, shown(got), code)
 	}
 }
 
@@ -261,7 +261,7 @@ func TestMadeByOfStepsThatAreNotValid(t *testing.T) {
 			want = blockMade(image, s)
 		}
 		if got := impl.MadeBy(image, s); got != want {
-			t.Fatalf("%.200v makes %x, want %x", s, got, want)
+			t.Fatalf("%s makes %x, want %x", shown(s), got, want)
 		}
 	}
 }
@@ -785,7 +785,7 @@ func onlyHas[T comparable](t *testing.T, what string, got []T, want []T) {
 	t.Helper()
 	var zero T
 	if !slices.Equal(got, want) {
-		t.Errorf("%s: changed to %.300v", what, got)
+		t.Errorf("%s: changed to %s", what, shown(got))
 	}
 	for _, v := range got[len(got):cap(got)] {
 		if v != zero {
