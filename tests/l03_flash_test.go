@@ -447,12 +447,12 @@ func remains(got string, old string, fresh string) bool {
 	return got == old || strings.HasPrefix(fresh, got)
 }
 
-// numbers returns a repeatable sequence of numbers below the limit that each call gives.
+// numbers returns a repeatable sequence of numbers below the limit that each call gives. They come from the high bits, since the low ones soon repeat, and with them whatever depends only on them.
 func numbers(seed uint32) func(limit int) int {
 	x := seed
 	return func(limit int) int {
 		x = x*1664525 + 1013904223
-		return int(x>>8) % limit
+		return int(uint64(x) * uint64(limit) >> 32)
 	}
 }
 
