@@ -303,13 +303,15 @@ func TestEveryValidStepIsApplied(t *testing.T) {
 	}
 }
 
-func TestStepsReadTheOriginalImage(t *testing.T) {
-	image := letterImage("abcd")
-	known := []struct {
-		what  string
-		steps []impl.Step
-		want  []string
-	}{
+type crossing struct {
+	what  string
+	steps []impl.Step
+	want  []string
+}
+
+// crossings have steps that read what others write, and what they make of the blocks of four letters.
+func crossings() []crossing {
+	return []crossing{
 		{"turned upwards", []impl.Step{copying(1, 0), copying(2, 1), copying(3, 2), copying(0, 3)}, letterImage("dabc")},
 		{"turned downwards", []impl.Step{copying(0, 1), copying(1, 2), copying(2, 3), copying(3, 0)}, letterImage("bcda")},
 		{"exchanged in pairs", []impl.Step{copying(0, 3), copying(3, 0), copying(2, 1), copying(1, 2)}, letterImage("dcba")},
@@ -320,7 +322,11 @@ func TestStepsReadTheOriginalImage(t *testing.T) {
 		{"xored after an xor", []impl.Step{xoring(0, 1, "        "), xoring(1, 0, "        ")}, letterImage("BAcd")},
 		{"one block copied to all", []impl.Step{copying(0, 1), copying(1, 1), copying(2, 1), copying(3, 1)}, letterImage("bbbb")},
 	}
-	for _, k := range known {
+}
+
+func TestStepsReadTheOriginalImage(t *testing.T) {
+	image := letterImage("abcd")
+	for _, k := range crossings() {
 		imageOutIs(t, k.what, impl.ImageApply(image, k.steps), k.want)
 		slices.Reverse(k.steps)
 		imageOutIs(t, k.what+", the other way round", impl.ImageApply(image, k.steps), k.want)
@@ -794,6 +800,14 @@ func onlyHas[T comparable](t *testing.T, what string, got []T, want []T) {
 	}
 }
 
+// overwriteBlocks changes all elements and the room behind them.
+func overwriteBlocks(l []string) {
+	l = l[:cap(l)]
+	for i := range l {
+		l[i] = "overwritten"
+	}
+}
+
 func TestImagesAreNewAndArgumentsNotChanged(t *testing.T) {
 	lists := append(listsOfEachCode(), namedSteps{"an exchange", []impl.Step{copying(1, 0), copying(0, 1)}, impl.OK})
 	for _, l := range lists {
@@ -801,11 +815,7 @@ func TestImagesAreNewAndArgumentsNotChanged(t *testing.T) {
 			image, steps := withRoomBehind(v.image), withRoomBehind(l.steps)
 			first := impl.ImageApply(image, steps).Image
 			before := slices.Clone(first)
-			second := impl.ImageApply(image, steps).Image
-			second = second[:cap(second)]
-			for i := range second {
-				second[i] = "overwritten"
-			}
+			overwriteBlocks(impl.ImageApply(image, steps).Image)
 			blocksAre(t, "the first result", first, before)
 			impl.ImageRight(image)
 			impl.ImageDigest(image)
