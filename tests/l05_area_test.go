@@ -302,8 +302,8 @@ func TestFromBitsOutside(t *testing.T) {
 	listIs(t, "the greatest", impl.FromBits(end-1), whole())
 }
 
-// permuted calls f with the extents in every order.
-func permuted(l []impl.Extent, f func(l []impl.Extent)) {
+// permuted calls f with the elements in every order.
+func permuted[T any](l []T, f func(l []T)) {
 	var place func(done int)
 	place = func(done int) {
 		if done == len(l) {

@@ -273,9 +273,19 @@ func TestSnapOfStepsThatReadEachOther(t *testing.T) {
 	}
 }
 
+// longestLists have MaxSteps steps for MaxBlocks blocks.
+func longestLists() [][]impl.Step {
+	return [][]impl.Step{
+		mostSteps(),
+		labels(upTo(0, impl.MaxSteps)...),
+		append(labels(upTo(0, impl.MaxSteps-1)...), zeroing(7)),
+		append([]impl.Step{xoring(0, 7, ones8)}, labels(upTo(0, impl.MaxSteps-1)...)...),
+	}
+}
+
 func TestSnapOfTheLongestLists(t *testing.T) {
 	base := patternImage(impl.MaxBlocks)
-	for _, l := range [][]impl.Step{mostSteps(), labels(upTo(0, impl.MaxSteps)...), append(labels(upTo(0, impl.MaxSteps-1)...), zeroing(7)), append([]impl.Step{xoring(0, 7, ones8)}, labels(upTo(0, impl.MaxSteps-1)...)...)} {
+	for _, l := range longestLists() {
 		if len(l) != impl.MaxSteps {
 			t.Fatalf("there are %d steps", len(l))
 		}
